@@ -4,6 +4,8 @@ import (
 	"cmp"
 	"slices"
 	"strings"
+
+	"pewholder/chars"
 )
 
 // firstUnlike goes through the steps, one behind the other, until one of them tells the two apart.
@@ -35,7 +37,7 @@ func comparePre(a, b []string) int {
 }
 
 func comparePart(a, b string) int {
-	numA, numB := digitsAlone(a), digitsAlone(b)
+	numA, numB := chars.Digits(a), chars.Digits(b)
 	switch {
 	case numA && numB:
 		// Without needless zeros, the number with more digits is the greater one.

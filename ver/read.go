@@ -4,6 +4,7 @@ import (
 	"strings"
 
 	"pewholder/api"
+	"pewholder/chars"
 )
 
 // worse of two errors: ErrBound is told only of what is right but for its bounds, so ErrText goes ahead of it wherever it comes up.
@@ -19,26 +20,11 @@ func readNumbers(s string) ([]int, error) {
 	var nums []int
 	var bad error
 	for _, piece := range strings.Split(s, ".") {
-		n, err := readNumber(piece)
+		n, err := chars.Number(piece)
 		bad = worse(bad, err)
 		nums = append(nums, n)
 	}
 	return nums, bad
-}
-
-func readNumber(s string) (int, error) {
-	if !digitsAlone(s) || len(s) > 1 && s[0] == '0' {
-		return 0, api.ErrText
-	}
-	n := 0
-	for i := range len(s) {
-		// It stops just above the bound, so that it can't wrap round, however many digits there are.
-		n = min(n*10+int(s[i]-'0'), api.MaxNum+1)
-	}
-	if !inBounds(n) {
-		return 0, api.ErrBound
-	}
-	return n, nil
 }
 
 func inBounds(n int) bool {
@@ -58,33 +44,16 @@ func checkPre(pre []string) error {
 }
 
 func checkPart(s string) error {
-	if len(s) < 1 || len(s) > api.MaxPart || !every(s, inPart) {
+	if len(s) < 1 || len(s) > api.MaxPart || !chars.Every(s, inPart) {
 		return api.ErrText
 	}
-	if !digitsAlone(s) {
+	if !chars.Digits(s) {
 		return nil
 	}
-	_, err := readNumber(s)
+	_, err := chars.Number(s)
 	return err
 }
 
-func digitsAlone(s string) bool {
-	return len(s) > 0 && every(s, isDigit)
-}
-
-func every(s string, fits func(byte) bool) bool {
-	for i := range len(s) {
-		if !fits(s[i]) {
-			return false
-		}
-	}
-	return true
-}
-
-func isDigit(c byte) bool {
-	return '0' <= c && c <= '9'
-}
-
 func inPart(c byte) bool {
-	return isDigit(c) || 'a' <= c && c <= 'z' || 'A' <= c && c <= 'Z' || c == '-'
+	return chars.Digit(c) || chars.Small(c) || 'A' <= c && c <= 'Z' || c == '-'
 }

@@ -9,6 +9,7 @@ import (
 	"testing"
 
 	"pewholder/api"
+	"pewholder/samples"
 	"pewholder/ver"
 )
 
@@ -88,26 +89,6 @@ func TestCheckOfEachByte(t *testing.T) {
 	}
 }
 
-// eachText hands over all texts of these letters, up to that many.
-func eachText(letters string, most int, take func(string)) {
-	texts := []string{""}
-	for n := 0; ; n++ {
-		for _, s := range texts {
-			take(s)
-		}
-		if n == most {
-			return
-		}
-		var longer []string
-		for _, s := range texts {
-			for i := range len(letters) {
-				longer = append(longer, s+letters[i:i+1])
-			}
-		}
-		texts = longer
-	}
-}
-
 func TestCheckOfAllShortTexts(t *testing.T) {
 	part := `(0|[1-9][0-9]*|[0-9]*[a-zA-Z-][0-9a-zA-Z-]*)`
 	version := regexp.MustCompile(`^v(0|[1-9][0-9]*)\.(0|[1-9][0-9]*)\.(0|[1-9][0-9]*)(-` + part + `(\.` + part + `)*)?$`)
@@ -123,8 +104,8 @@ func TestCheckOfAllShortTexts(t *testing.T) {
 			t.Errorf("Check(%q): %v, not %v", s, err, want)
 		}
 	}
-	eachText("v01.-a", 6, try)
-	eachText("01.-a_", 6, func(s string) { try("v1.0." + s) })
+	samples.EachText("v01.-a", 6, try)
+	samples.EachText("01.-a_", 6, func(s string) { try("v1.0." + s) })
 	if seen == 0 {
 		t.Error("no version among them")
 	}
@@ -285,12 +266,12 @@ func TestBegins(t *testing.T) {
 // someVersions are all with few numbers and all short Pres of few letters.
 func someVersions() []string {
 	var l []string
-	eachText("019.-aB", 4, func(tail string) {
+	samples.EachText("019.-aB", 4, func(tail string) {
 		if s := "v1.0.0-" + tail; ver.Check(s) == nil {
 			l = append(l, s)
 		}
 	})
-	eachText("01.", 5, func(core string) {
+	samples.EachText("01.", 5, func(core string) {
 		if s := "v" + core; ver.Check(s) == nil {
 			l = append(l, s, s+"-0", s+"-a")
 		}
