@@ -1,22 +1,27 @@
 // Package samples: inputs that the tests of several packages share. The program itself does not use it.
 package samples
 
-// EachText hands over all texts of these letters, up to that many letters.
-func EachText(letters string, most int, take func(string)) {
-	texts := []string{""}
-	for range most {
-		for _, s := range texts {
-			take(s)
-		}
-		var longer []string
-		for _, s := range texts {
-			for i := range len(letters) {
-				longer = append(longer, s+letters[i:i+1])
+import "slices"
+
+// EachList hands over all lists of these, up to that many, shorter ones first.
+func EachList[T any](of []T, most int, take func([]T)) {
+	lists := [][]T{nil}
+	for left := most; left >= 0; left-- {
+		var longer [][]T
+		for _, l := range lists {
+			take(slices.Clone(l))
+			if left == 0 {
+				continue
+			}
+			for _, x := range of {
+				longer = append(longer, append(slices.Clone(l), x))
 			}
 		}
-		texts = longer
+		lists = longer
 	}
-	for _, s := range texts {
-		take(s)
-	}
+}
+
+// EachText hands over all texts of these letters, up to that many letters.
+func EachText(letters string, most int, take func(string)) {
+	EachList([]byte(letters), most, func(l []byte) { take(string(l)) })
 }

@@ -24,3 +24,15 @@ func TestEachText(t *testing.T) {
 		}
 	}
 }
+
+func TestEachList(t *testing.T) {
+	var got [][]int
+	samples.EachList([]int{1, 2}, 2, func(l []int) {
+		got = append(got, slices.Clone(l))
+		clear(l) // which the lists to come must not see
+	})
+	want := [][]int{nil, {1}, {2}, {1, 1}, {1, 2}, {2, 1}, {2, 2}}
+	if !slices.EqualFunc(got, want, slices.Equal) {
+		t.Errorf("EachList: %v, not %v", got, want)
+	}
+}
