@@ -8,22 +8,6 @@ import (
 	"pewholder/place"
 )
 
-// checkReqs checks what a module of that path requires.
-func checkReqs(own string, reqs []api.Mod) error {
-	return place.First(reqs, func(i int, m api.Mod) error {
-		if err := mod.Check(m); err != nil {
-			return err
-		}
-		if m.Path == own {
-			return api.ErrShape
-		}
-		if i > 0 && reqs[i-1].Path >= m.Path {
-			return api.ErrOrder
-		}
-		return nil
-	})
-}
-
 func checkExclude(exclude []api.Mod) error {
 	return place.First(exclude, func(i int, m api.Mod) error {
 		if err := mod.Check(m); err != nil {

@@ -15,34 +15,8 @@ import (
 	"pewholder/samples"
 )
 
-// mods reads `PATH@VERSION` words, right or wrong.
-func mods(words string) []api.Mod {
-	var l []api.Mod
-	for _, w := range strings.Fields(words) {
-		path, version, _ := strings.Cut(w, "@")
-		l = append(l, api.Mod{Path: path, Ver: version})
-	}
-	return l
-}
-
 func fileOf(path, reqs, exclude string) api.File {
-	return api.File{Path: path, Reqs: mods(reqs), Exclude: mods(exclude)}
-}
-
-// row is so many modules, paths rising, as words.
-func row(n int) string {
-	var words []string
-	for i := range n {
-		words = append(words, fmt.Sprintf("r%03d@v1.0.0", i))
-	}
-	return strings.Join(words, " ")
-}
-
-// sameFault tells whether an error is that one, at that place (-1: bare).
-func sameFault(err, want error, at int) bool {
-	code, place := plain.Code(err)
-	wantCode, _ := plain.Code(want)
-	return code == wantCode && place == at
+	return api.File{Path: path, Reqs: samples.Mods(reqs), Exclude: samples.Mods(exclude)}
 }
 
 // sameFile takes a nil list and an empty one as one thing.
@@ -100,7 +74,7 @@ func TestFilesThatAreRight(t *testing.T) {
 }
 
 func TestFilesThatAreFull(t *testing.T) {
-	for _, f := range []api.File{fileOf("a", row(20), ""), fileOf("a", "", row(20)), longest()} {
+	for _, f := range []api.File{fileOf("a", samples.Row(20), ""), fileOf("a", "", samples.Row(20)), longest()} {
 		s := file.Text(f)
 		if err := file.Check(f); err != nil || s == "" {
 			t.Errorf("Check(%v): %v, %q", f, err, s)
@@ -122,13 +96,13 @@ var wrongFiles = []struct {
 	{fileOf("a/b/c/d/e/f", "", ""), api.ErrBound, -1}, {fileOf("a/v1", "", ""), api.ErrMajor, -1},
 
 	// The path comes ahead of all else, then the counts.
-	{fileOf("", row(21), row(21)), api.ErrText, -1}, {fileOf("a/v1", "x@", ""), api.ErrMajor, -1},
-	{fileOf("a", row(21), ""), api.ErrFull, -1}, {fileOf("a", "", row(21)), api.ErrFull, -1}, {fileOf("a", row(20), row(21)), api.ErrFull, -1},
-	{fileOf("a", "a@ "+row(20), ""), api.ErrFull, -1}, {fileOf("a", "x@", row(21)), api.ErrFull, -1}, {fileOf("a", row(1000), ""), api.ErrFull, -1},
+	{fileOf("", samples.Row(21), samples.Row(21)), api.ErrText, -1}, {fileOf("a/v1", "x@", ""), api.ErrMajor, -1},
+	{fileOf("a", samples.Row(21), ""), api.ErrFull, -1}, {fileOf("a", "", samples.Row(21)), api.ErrFull, -1}, {fileOf("a", samples.Row(20), samples.Row(21)), api.ErrFull, -1},
+	{fileOf("a", "a@ "+samples.Row(20), ""), api.ErrFull, -1}, {fileOf("a", "x@", samples.Row(21)), api.ErrFull, -1}, {fileOf("a", samples.Row(1000), ""), api.ErrFull, -1},
 
 	{fileOf("a", "x", ""), api.ErrText, 0}, {fileOf("a", "@v1.0.0", ""), api.ErrText, 0}, {fileOf("a", "b@v1.0.0 c@v1", ""), api.ErrText, 1},
 	{fileOf("a", "b@v1.0.0 elevenchars@v1.0.0", ""), api.ErrBound, 1}, {fileOf("a", "b@v1.0.0 c@v1.0.0 d@v2.0.0", ""), api.ErrMajor, 2},
-	{fileOf("a", "b@v1.0.0 c/v2@v1.0.0", ""), api.ErrMajor, 1}, {fileOf("a", row(19)+" z@v2.0.0", ""), api.ErrMajor, 19},
+	{fileOf("a", "b@v1.0.0 c/v2@v1.0.0", ""), api.ErrMajor, 1}, {fileOf("a", samples.Row(19)+" z@v2.0.0", ""), api.ErrMajor, 19},
 	{fileOf("a", "a@v1.0.0", ""), api.ErrShape, 0}, {fileOf("b", "a@v1.0.0 b@v1.0.0 c@v1.0.0", ""), api.ErrShape, 1},
 	{fileOf("a/v2", "a@v1.0.0 a/v2@v2.0.0", ""), api.ErrShape, 1}, {fileOf("a", "c@v1.0.0 b@v1.0.0", ""), api.ErrOrder, 1},
 	{fileOf("a", "b@v1.0.0 b@v1.0.0", ""), api.ErrOrder, 1}, {fileOf("a", "b@v1.0.0 b@v1.1.0", ""), api.ErrOrder, 1},
@@ -144,7 +118,7 @@ var wrongFiles = []struct {
 	{fileOf("a", "", "b@v1.0.0 c@v2.0.0"), api.ErrMajor, 1}, {fileOf("a", "", "b@v1.0.0 b@v1.0.0"), api.ErrOrder, 1},
 	{fileOf("a", "", "b@v1.10.0 b@v1.9.0"), api.ErrOrder, 1}, {fileOf("a", "", "b@v1.0.0 b@v1.0.0-rc"), api.ErrOrder, 1},
 	{fileOf("a", "", "c@v1.0.0 b@v1.1.0"), api.ErrOrder, 1}, {fileOf("a", "", "c@v1.0.0 b@v2.0.0"), api.ErrMajor, 1},
-	{fileOf("a", "", "c@v1.0.0 b@v1.0.0 x@"), api.ErrOrder, 1}, {fileOf("a", "", row(19)+" z@v2.0.0"), api.ErrMajor, 19},
+	{fileOf("a", "", "c@v1.0.0 b@v1.0.0 x@"), api.ErrOrder, 1}, {fileOf("a", "", samples.Row(19)+" z@v2.0.0"), api.ErrMajor, 19},
 
 	{fileOf("a", "b@v1.0.0", "b@v1.0.0"), api.ErrClash, 0}, {fileOf("a", "b@v1.0.0 c@v1.0.0", "c@v1.0.0"), api.ErrClash, 1},
 	{fileOf("a", "b@v1.0.0 c@v1.0.0 d@v1.0.0", "b@v0.9.0 c@v1.0.0 d@v1.0.0"), api.ErrClash, 1},
@@ -157,7 +131,7 @@ var wrongFiles = []struct {
 
 func TestFilesThatAreWrong(t *testing.T) {
 	for _, c := range wrongFiles {
-		if err := file.Check(c.f); !sameFault(err, c.err, c.at) {
+		if err := file.Check(c.f); !samples.SameFault(err, c.err, c.at) {
 			t.Errorf("Check(%v): %#v, not %v at %d", c.f, err, c.err, c.at)
 		}
 		if s := file.Text(c.f); s != "" {
@@ -206,14 +180,14 @@ func wantOfCheck(f api.File) (error, int) {
 }
 
 func TestCheckAndTextOfManyFiles(t *testing.T) {
-	of := mods("a@v1.0.0 b@v1.0.0 b@v1.1.0 c@v1.0.0 c@v2.0.0 d@x")
+	of := samples.Mods("a@v1.0.0 b@v1.0.0 b@v1.1.0 c@v1.0.0 c@v2.0.0 d@x")
 	seen := map[error]int{}
 	samples.EachList(of, 3, func(reqs []api.Mod) {
 		samples.EachList(of, 3, func(exclude []api.Mod) {
 			f := api.File{Path: "a", Reqs: reqs, Exclude: exclude}
 			want, at := wantOfCheck(f)
 			seen[want]++
-			if err := file.Check(f); !sameFault(err, want, at) {
+			if err := file.Check(f); !samples.SameFault(err, want, at) {
 				t.Fatalf("Check(%v): %#v, not %v at %d", f, err, want, at)
 			}
 			if s := file.Text(f); (s != "") != (want == nil) {
@@ -249,7 +223,7 @@ func TestReadTellsWrongLines(t *testing.T) {
 		{"module a\n" + strings.Repeat("require b v1.0.0\n", 30) + "x\n", 31}, {strings.Repeat("\n", api.MaxText), 0},
 		{strings.Repeat("x", api.MaxText), 0},
 	} {
-		if f, err := file.Read(c.text); !reflect.DeepEqual(f, api.File{}) || !sameFault(err, api.ErrText, c.at) {
+		if f, err := file.Read(c.text); !reflect.DeepEqual(f, api.File{}) || !samples.SameFault(err, api.ErrText, c.at) {
 			t.Errorf("Read(%.60q): %v, %#v, not at %d", c.text, f, err, c.at)
 		}
 	}
@@ -289,7 +263,7 @@ func TestReadOfLongTexts(t *testing.T) {
 		{most + "\n", api.ErrBound, -1}, {most + "x", api.ErrBound, -1}, {strings.Repeat("x", api.MaxText+1), api.ErrBound, -1},
 		{"module a\n" + strings.Repeat("require b v1.0.0\n", 1000), api.ErrBound, -1}, {strings.Repeat("\n", 100000), api.ErrBound, -1},
 	} {
-		if f, err := file.Read(c.text); !reflect.DeepEqual(f, api.File{}) || !sameFault(err, c.err, c.at) {
+		if f, err := file.Read(c.text); !reflect.DeepEqual(f, api.File{}) || !samples.SameFault(err, c.err, c.at) {
 			t.Errorf("Read(%.60q) of %d: %v, %#v, not %v at %d", c.text, len(c.text), f, err, c.err, c.at)
 		}
 	}
@@ -322,7 +296,7 @@ func TestReadOfManyTexts(t *testing.T) {
 		f, err := file.Read(s)
 		at := wrongLine(s)
 		_, gotAt := plain.Code(err)
-		if gotAt != at || at >= 0 && !sameFault(err, api.ErrText, at) {
+		if gotAt != at || at >= 0 && !samples.SameFault(err, api.ErrText, at) {
 			t.Fatalf("Read(%q): %v, %#v, not at %d", s, f, err, at)
 		}
 		if err == nil && file.Text(f) != s {
@@ -341,7 +315,7 @@ func TestReadOfManyTexts(t *testing.T) {
 }
 
 func TestAFileIsReadAsItWasWritten(t *testing.T) {
-	of := mods("a@v0.1.0 b@v1.0.0-rc.2 b@v1.0.0 b/v2@v2.10.0 c@v1.0.0")
+	of := samples.Mods("a@v0.1.0 b@v1.0.0-rc.2 b@v1.0.0 b/v2@v2.10.0 c@v1.0.0")
 	written := 0
 	samples.EachList(of, 4, func(reqs []api.Mod) {
 		samples.EachList(of, 2, func(exclude []api.Mod) {
@@ -368,19 +342,19 @@ func TestSet(t *testing.T) {
 		{"b@v1.2.0", "b@v1.2.0 d@v1.0.0"}, {"b@v0.1.0", "b@v0.1.0 d@v1.0.0"}, {"b@v1.0.0", "b@v1.0.0 d@v1.0.0"}, {"d@v1.0.0-rc", "b@v1.0.0 d@v1.0.0-rc"},
 		{"b/v2@v2.0.0", "b@v1.0.0 b/v2@v2.0.0 d@v1.0.0"}, {"main/v2@v2.0.0", "b@v1.0.0 d@v1.0.0 main/v2@v2.0.0"},
 	} {
-		got, err := file.Set(f, mods(c.m)[0])
+		got, err := file.Set(f, samples.Mods(c.m)[0])
 		if !sameFile(got, fileOf("main", c.want, "c@v1.1.0")) || err != nil {
 			t.Errorf("Set %s: %v, %v", c.m, got, err)
 		}
 	}
-	if got, err := file.Set(fileOf("main", "", ""), mods("a@v1.0.0")[0]); !sameFile(got, fileOf("main", "a@v1.0.0", "")) || err != nil {
+	if got, err := file.Set(fileOf("main", "", ""), samples.Mods("a@v1.0.0")[0]); !sameFile(got, fileOf("main", "a@v1.0.0", "")) || err != nil {
 		t.Errorf("Set of the first: %v, %v", got, err)
 	}
 }
 
 func TestSetOfWhatCantBe(t *testing.T) {
 	f := fileOf("main", "b@v1.0.0 d@v1.0.0", "c@v1.1.0 d@v1.2.0")
-	full := fileOf("main", row(20), "a@v1.0.0")
+	full := fileOf("main", samples.Row(20), "a@v1.0.0")
 	for _, c := range []struct {
 		f   api.File
 		m   string
@@ -393,9 +367,9 @@ func TestSetOfWhatCantBe(t *testing.T) {
 
 		// One more than may be: told ahead of what else is wrong; another version is no more.
 		{full, "b@v1.0.0", api.ErrFull}, {full, "a@v1.0.0", api.ErrFull}, {full, "main@v1.0.0", api.ErrFull}, {full, "@", api.ErrFull},
-		{full, "r000@v2.0.0", api.ErrMajor}, {full, "r000@v1.1.0", nil}, {fileOf("main", row(19), ""), "b@v1.0.0", nil},
+		{full, "r000@v2.0.0", api.ErrMajor}, {full, "r000@v1.1.0", nil}, {fileOf("main", samples.Row(19), ""), "b@v1.0.0", nil},
 	} {
-		got, err := file.Set(c.f, mods(c.m)[0])
+		got, err := file.Set(c.f, samples.Mods(c.m)[0])
 		if err != c.err || (err != nil) != reflect.DeepEqual(got, api.File{}) {
 			t.Errorf("Set %s: %v, %#v, not %v", c.m, got, err, c.err)
 		}
@@ -426,7 +400,7 @@ func TestDrop(t *testing.T) {
 }
 
 func TestSetAndDropGoTogether(t *testing.T) {
-	of := mods("a@v1.0.0 b@v1.0.0 c@v1.0.0 c@v1.1.0 d@v1.0.0")
+	of := samples.Mods("a@v1.0.0 b@v1.0.0 c@v1.0.0 c@v1.1.0 d@v1.0.0")
 	samples.EachList(of, 4, func(l []api.Mod) {
 		f := api.File{Path: "main"}
 		last := map[string]api.Mod{}
@@ -454,7 +428,7 @@ func TestSetAndDropGoTogether(t *testing.T) {
 
 // spare has room behind each list's length, with something in it.
 func spare(f api.File) api.File {
-	behind := mods("behind@v1.0.0 behind@v1.0.0")
+	behind := samples.Mods("behind@v1.0.0 behind@v1.0.0")
 	with := func(l []api.Mod) []api.Mod { return append(slices.Clone(l), behind...)[:len(l)] }
 	return api.File{Path: f.Path, Reqs: with(f.Reqs), Exclude: with(f.Exclude)}
 }
@@ -469,7 +443,7 @@ func TestAnswersAreNewMemory(t *testing.T) {
 		f := spare(fileOf("main", reqs, "e@v1.0.0 e@v1.1.0"))
 		before := whole(f)
 		var answers []api.File
-		for _, m := range mods("a@v1.0.0 b@v1.1.0 c@v1.0.0 f@v1.0.0 e@v1.0.0 x@") {
+		for _, m := range samples.Mods("a@v1.0.0 b@v1.1.0 c@v1.0.0 f@v1.0.0 e@v1.0.0 x@") {
 			if got, err := file.Set(f, m); err == nil {
 				answers = append(answers, got)
 			}

@@ -312,3 +312,19 @@ func TestAheadSorts(t *testing.T) {
 		t.Errorf("sorted: %v", l)
 	}
 }
+
+func TestCheckReqs(t *testing.T) {
+	for _, c := range []struct {
+		reqs string
+		err  error
+		at   int
+	}{
+		{"", nil, -1}, {"a/v2@v2.0.0 b@v1.0.0 c@v0.1.0", nil, -1}, {"b@v1.0.0 c@v2.0.0", api.ErrMajor, 1}, {"a@v1.0.0", api.ErrShape, 0},
+		{"b@v1.0.0 b@v1.1.0", api.ErrOrder, 1}, {"c@v1.0.0 b@v1.0.0 x@", api.ErrOrder, 1}, {"b@v1.0.0 a@v1.0.0", api.ErrShape, 1},
+		{"b@v1.0.0 a@v1", api.ErrText, 1},
+	} {
+		if err := mod.CheckReqs("a", samples.Mods(c.reqs)); !samples.SameFault(err, c.err, c.at) {
+			t.Errorf("CheckReqs of %q: %#v, not %v at %d", c.reqs, err, c.err, c.at)
+		}
+	}
+}
