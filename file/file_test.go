@@ -429,8 +429,7 @@ func TestSetAndDropGoTogether(t *testing.T) {
 // spare has room behind each list's length, with something in it.
 func spare(f api.File) api.File {
 	behind := samples.Mods("behind@v1.0.0 behind@v1.0.0")
-	with := func(l []api.Mod) []api.Mod { return append(slices.Clone(l), behind...)[:len(l)] }
-	return api.File{Path: f.Path, Reqs: with(f.Reqs), Exclude: with(f.Exclude)}
+	return api.File{Path: f.Path, Reqs: samples.Spare(f.Reqs, behind...), Exclude: samples.Spare(f.Exclude, behind...)}
 }
 
 // whole is what a file's lists hold, also behind their lengths.

@@ -8,6 +8,16 @@ import (
 	"pewholder/place"
 )
 
+// CheckMods tells the first of these modules that is no entry.
+func CheckMods(l []api.Entry, mods []api.Mod) error {
+	return place.First(mods, func(_ int, m api.Mod) error {
+		if Find(l, m) < 0 {
+			return api.ErrNone
+		}
+		return nil
+	})
+}
+
 // checkEach checks the entries as far as each can be told by itself and the one ahead.
 func checkEach(l []api.Entry) error {
 	return place.First(l, func(i int, e api.Entry) error {

@@ -23,15 +23,10 @@ func packRow(n int) string {
 	return strings.Join(words, " ")
 }
 
-// lines is so many entries without requirements, as lines.
-func lines(n int) string {
-	return strings.ReplaceAll(samples.Row(n), " ", "\n")
-}
-
 // fullest has as many entries as may be, and the last ones as many of all else.
 func fullest() string {
 	reqs := samples.Row(api.MaxReqs)
-	return lines(api.MaxIndex-2) + "\nx@v1.0.0 needs " + reqs + " has . " + packRow(api.MaxPacks-1) + "\ny@v1.0.0 needs " + reqs + " has " + packRow(api.MaxPacks)
+	return samples.Lines(api.MaxIndex-2) + "\nx@v1.0.0 needs " + reqs + " has . " + packRow(api.MaxPacks-1) + "\ny@v1.0.0 needs " + reqs + " has " + packRow(api.MaxPacks)
 }
 
 // rightIndexes are right, as lines.
@@ -48,7 +43,7 @@ var rightIndexes = []string{
 	"a@v1.0.0 needs b@v1.0.0 c@v1.0.0\nb@v1.0.0 needs a@v1.0.0 c@v1.0.0\nc@v1.0.0 needs a@v1.0.0 b@v1.0.0",
 	"a@v1.0.0 needs b@v1.1.0\na@v1.1.0 needs b@v1.0.0\nb@v1.0.0 needs a@v1.1.0 back\nb@v1.1.0 back",
 	"a@v1.0.0 needs b@v1.0.0 c@v1.0.0-rc.1\nb@v1.0.0\nc@v1.0.0-rc.1 back",
-	lines(api.MaxIndex),
+	samples.Lines(api.MaxIndex),
 	fullest(),
 }
 
@@ -71,7 +66,7 @@ var wrongIndexes = []struct {
 	err  error
 	at   int
 }{
-	{lines(101), api.ErrFull, -1}, {lines(1000), api.ErrFull, -1}, {"@\n" + lines(100), api.ErrFull, -1}, {lines(99) + "\n@", api.ErrText, 99},
+	{samples.Lines(101), api.ErrFull, -1}, {samples.Lines(1000), api.ErrFull, -1}, {"@\n" + samples.Lines(100), api.ErrFull, -1}, {samples.Lines(99) + "\n@", api.ErrText, 99},
 
 	{"@", api.ErrText, 0}, {"a", api.ErrText, 0}, {"@v1.0.0", api.ErrText, 0}, {"a@v1.0.0\nb@v1", api.ErrText, 1}, {"A@v1.0.0", api.ErrText, 0},
 	{"a@v1.0.0\nelevenchars@v1.0.0", api.ErrBound, 1}, {"a@v1000000.0.0", api.ErrBound, 0}, {"a@v2.0.0", api.ErrMajor, 0},
@@ -81,7 +76,7 @@ var wrongIndexes = []struct {
 	{"a@v1.0.0\na@v1.0.0-rc", api.ErrOrder, 1}, {"a/v2@v2.0.0\na/v10@v10.0.0", api.ErrOrder, 1}, {"a@v1.0.0\nb@v1.0.0\na@v1.1.0", api.ErrOrder, 2},
 	{"a@v1.0.0 back\na@v1.0.0", api.ErrOrder, 1},
 
-	{"x@v1.0.0 needs " + samples.Row(21), api.ErrFull, 0}, {lines(2) + "\nx@v1.0.0 needs @ " + samples.Row(20), api.ErrFull, 2},
+	{"x@v1.0.0 needs " + samples.Row(21), api.ErrFull, 0}, {samples.Lines(2) + "\nx@v1.0.0 needs @ " + samples.Row(20), api.ErrFull, 2},
 	{"x@v1.0.0 needs x@v1.0.0 " + samples.Row(500), api.ErrFull, 0},
 
 	{"a@v1.0.0 needs b", api.ErrText, 0}, {"a@v1.0.0\nb@v1.0.0 needs a@v1.0.0 c@v1", api.ErrText, 1}, {"a@v1.0.0 needs elevenchars@v1.0.0", api.ErrBound, 0},
@@ -99,7 +94,7 @@ var wrongIndexes = []struct {
 
 	{"a@v1.0.0 needs b@v1.0.0", api.ErrNone, 0}, {"a@v1.0.0 needs b@v1.0.0\nb@v1.1.0", api.ErrNone, 0},
 	{"a@v1.0.0\nb@v1.0.0 needs a@v1.0.0 c@v1.0.0\nc@v1.1.0 needs x@v1.0.0", api.ErrNone, 1}, {"a@v1.0.0\nb@v1.0.0 needs a@v1.0.1", api.ErrNone, 1},
-	{lines(19) + "\nx@v1.0.0 needs " + samples.Row(20), api.ErrNone, 19}, {"a@v1.0.0 needs b@v1.0.0\nb/v2@v2.0.0", api.ErrNone, 0},
+	{samples.Lines(19) + "\nx@v1.0.0 needs " + samples.Row(20), api.ErrNone, 19}, {"a@v1.0.0 needs b@v1.0.0\nb/v2@v2.0.0", api.ErrNone, 0},
 
 	// Of one entry: in this order.
 	{"b@v1.0.0\na@v2.0.0", api.ErrMajor, 1}, {"b@v1.0.0\na@v1.0.0 needs " + samples.Row(21), api.ErrOrder, 1},
@@ -292,6 +287,21 @@ func wantOfLatest(l []api.Entry, path string) string {
 	return best
 }
 
+func TestCheckMods(t *testing.T) {
+	l := samples.Index(some)
+	for _, c := range []struct {
+		mods string
+		err  error
+		at   int
+	}{
+		{"", nil, -1}, {"b@v0.1.0 a@v1.0.0 b@v0.1.0", nil, -1}, {"a@v1.0.0 b@v0.2.0 x@v1.0.0", api.ErrNone, 1}, {"@", api.ErrNone, 0},
+	} {
+		if err := index.CheckMods(l, samples.Mods(c.mods)); !samples.SameFault(err, c.err, c.at) {
+			t.Errorf("CheckMods of %s: %#v, not %v at %d", c.mods, err, c.err, c.at)
+		}
+	}
+}
+
 func TestOfAllThatIsThereEachVersionIsFound(t *testing.T) {
 	versions := strings.Fields("v0.9.0-a v0.9.0 v0.10.0 v1.0.0-a v1.0.0-b v1.0.0")
 	samples.EachList([]int{0, 1, 2}, len(versions), func(kinds []int) {
@@ -352,29 +362,10 @@ func TestWhatIsNoIndex(t *testing.T) {
 	}
 }
 
-// spare has room behind each list's length, with something in it.
-func spare(l []api.Entry) []api.Entry {
-	out := slices.Clone(l)
-	for i, e := range out {
-		out[i].Reqs = append(slices.Clone(e.Reqs), samples.Mods("behind@v1.0.0 x@")...)[:len(e.Reqs)]
-		out[i].Packs = append(slices.Clone(e.Packs), "behind", "X")[:len(e.Packs)]
-	}
-	return append(out, samples.Index("a@v1.9.0\n@")...)[:len(l)]
-}
-
-// whole is what an index holds, also behind its lists' lengths.
-func whole(l []api.Entry) string {
-	s := fmt.Sprint(l[:cap(l)])
-	for _, e := range l {
-		s += fmt.Sprint(e.Reqs[:cap(e.Reqs)], e.Packs[:cap(e.Packs)])
-	}
-	return s
-}
-
 func TestAnIndexIsOnlyRead(t *testing.T) {
 	for _, text := range []string{some, "b@v1.0.0 has z y\na@v1.0.0 needs z@v1.0.0 y@v1.0.0 has z y", ""} {
-		l := spare(samples.Index(text))
-		before := whole(l)
+		l := samples.SpareIndex(samples.Index(text))
+		before := samples.Whole(l)
 		if err, want := index.Check(l), index.Check(samples.Index(text)); !reflect.DeepEqual(err, want) {
 			t.Errorf("Check: %v, not %v", err, want)
 		}
@@ -393,8 +384,8 @@ func TestAnIndexIsOnlyRead(t *testing.T) {
 				t.Errorf("Find of what is behind the list: %d", at)
 			}
 		}
-		if whole(l) != before {
-			t.Errorf("it was %s, and is %s", before, whole(l))
+		if after := samples.Whole(l); !reflect.DeepEqual(after, before) {
+			t.Errorf("it was %v, and is %v", before, after)
 		}
 	}
 }

@@ -32,6 +32,11 @@ func Row(n int) string {
 	return strings.Join(words, " ")
 }
 
+// Lines is so many entries that require nothing, a line each; up to 1000.
+func Lines(n int) string {
+	return strings.ReplaceAll(Row(n), " ", "\n")
+}
+
 // Index reads entries, right or wrong, a line each: `a@v1.0.0 needs b@v1.0.0 c@v1.0.0 has . x/y back`, of which only the module must be there.
 func Index(text string) []api.Entry {
 	var l []api.Entry

@@ -17,6 +17,9 @@ func TestMods(t *testing.T) {
 	if s := samples.Row(3); s != "r000@v1.0.0 r001@v1.0.0 r002@v1.0.0" {
 		t.Error(s)
 	}
+	if s := samples.Lines(2); s != "r000@v1.0.0\nr001@v1.0.0" {
+		t.Error(s)
+	}
 }
 
 func TestIndex(t *testing.T) {
