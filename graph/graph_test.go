@@ -27,15 +27,6 @@ const some = `a@v1.9.0 needs b@v1.0.0
 	s@v0.1.0 needs t@v0.1.0
 	t@v0.1.0 needs d@v1.0.0 r@v0.1.0`
 
-// text is modules as words.
-func text(l []api.Mod) string {
-	var words []string
-	for _, m := range l {
-		words = append(words, m.Path+"@"+m.Ver)
-	}
-	return strings.Join(words, " ")
-}
-
 func TestReachAndItsEdges(t *testing.T) {
 	l := samples.Index(some)
 	for _, c := range []struct {
@@ -58,8 +49,8 @@ func TestReachAndItsEdges(t *testing.T) {
 	} {
 		roots := samples.Mods(c.roots)
 		reach, err := graph.Reach(l, roots)
-		if text(reach) != c.reach || err != nil {
-			t.Errorf("Reach of %s: %s, %v", c.roots, text(reach), err)
+		if samples.Words(reach) != c.reach || err != nil {
+			t.Errorf("Reach of %s: %s, %v", c.roots, samples.Words(reach), err)
 		}
 		if edges, err := graph.Edges(l, roots); edges != c.edges || err != nil {
 			t.Errorf("Edges of %s: %d, %v", c.roots, edges, err)
@@ -82,8 +73,8 @@ func TestWay(t *testing.T) {
 		{"t@v0.1.0 t@v0.1.0", "t@v0.1.0", "t@v0.1.0"},
 		{"a@v1.9.0 a/v2@v2.0.0 r@v0.1.0", "a@v1.10.0", "a/v2@v2.0.0 a@v1.10.0"},
 	} {
-		if way, err := graph.Way(l, samples.Mods(c.roots), samples.Mod(c.to)); text(way) != c.way || err != nil {
-			t.Errorf("Way from %s to %s: %s, %v", c.roots, c.to, text(way), err)
+		if way, err := graph.Way(l, samples.Mods(c.roots), samples.Mod(c.to)); samples.Words(way) != c.way || err != nil {
+			t.Errorf("Way from %s to %s: %s, %v", c.roots, c.to, samples.Words(way), err)
 		}
 	}
 }
@@ -95,7 +86,7 @@ func TestWayToWhatIsNotReached(t *testing.T) {
 		{"a@v1.9.0", "x@v1.0.0"}, {"a@v1.9.0", "d@v1.0.1"}, {"a@v1.9.0", "d@"}, {"a@v1.9.0", "@v1.0.0"}, {"a@v1.9.0", "@"}, {"a@v1.9.0", "A@v2.0.0"},
 	} {
 		if way, err := graph.Way(l, samples.Mods(c.roots), samples.Mod(c.to)); len(way) > 0 || err != api.ErrNone {
-			t.Errorf("Way from %s to %s: %s, %#v", c.roots, c.to, text(way), err)
+			t.Errorf("Way from %s to %s: %s, %#v", c.roots, c.to, samples.Words(way), err)
 		}
 	}
 }
@@ -164,16 +155,16 @@ func TestALongRing(t *testing.T) {
 	l := samples.Index(strings.Join(lines, "\n"))
 	for _, from := range []int{0, 1, 50, 99} {
 		roots := samples.Mods(row[from])
-		if reach, err := graph.Reach(l, roots); text(reach) != strings.Join(row, " ") || err != nil {
-			t.Errorf("Reach from %d: %s, %v", from, text(reach), err)
+		if reach, err := graph.Reach(l, roots); samples.Words(reach) != strings.Join(row, " ") || err != nil {
+			t.Errorf("Reach from %d: %s, %v", from, samples.Words(reach), err)
 		}
 		if edges, err := graph.Edges(l, roots); edges != len(row) || err != nil {
 			t.Errorf("Edges from %d: %d, %v", from, edges, err)
 		}
 		for n := range row {
 			want := slices.Concat(row, row)[from : from+n+1]
-			if way, err := graph.Way(l, roots, samples.Mod(want[n])); text(way) != strings.Join(want, " ") || err != nil {
-				t.Errorf("Way from %d to the %dth behind it: %s, %v", from, n, text(way), err)
+			if way, err := graph.Way(l, roots, samples.Mod(want[n])); samples.Words(way) != strings.Join(want, " ") || err != nil {
+				t.Errorf("Way from %d to the %dth behind it: %s, %v", from, n, samples.Words(way), err)
 			}
 		}
 	}
@@ -189,8 +180,8 @@ func TestTheFullestIndex(t *testing.T) {
 	}
 	// All require the first ones alone, so that one of the others is reached only as a root.
 	roots := samples.Mods(strings.Repeat(row[99]+" ", 500) + row[98])
-	if reach, err := graph.Reach(l, roots); text(reach) != strings.Join(slices.Concat(row[:21], row[98:]), " ") || err != nil {
-		t.Errorf("Reach: %s, %v", text(reach), err)
+	if reach, err := graph.Reach(l, roots); samples.Words(reach) != strings.Join(slices.Concat(row[:21], row[98:]), " ") || err != nil {
+		t.Errorf("Reach: %s, %v", samples.Words(reach), err)
 	}
 	if edges, err := graph.Edges(l, roots); edges != 23*api.MaxReqs || err != nil {
 		t.Errorf("Edges: %d, %v", edges, err)

@@ -33,15 +33,6 @@ const some = `a@v1.9.0 needs b@v1.0.0
 	s@v0.1.0 needs t@v0.1.0
 	t@v0.1.0 needs r@v0.2.0`
 
-// text is modules as words.
-func text(l []api.Mod) string {
-	var words []string
-	for _, m := range l {
-		words = append(words, m.Path+"@"+m.Ver)
-	}
-	return strings.Join(words, " ")
-}
-
 func TestBuild(t *testing.T) {
 	l := samples.Index(some)
 	for _, c := range []struct{ roots, want string }{
@@ -65,8 +56,8 @@ func TestBuild(t *testing.T) {
 		{"s@v0.1.0", "r@v0.2.0 s@v0.1.0 t@v0.1.0"},
 	} {
 		roots := samples.Mods(c.roots)
-		if got, err := mvs.Build(l, roots); text(got) != c.want || err != nil {
-			t.Errorf("Build of %s: %s, %v", c.roots, text(got), err)
+		if got, err := mvs.Build(l, roots); samples.Words(got) != c.want || err != nil {
+			t.Errorf("Build of %s: %s, %v", c.roots, samples.Words(got), err)
 		}
 	}
 }
@@ -74,8 +65,8 @@ func TestBuild(t *testing.T) {
 func TestTheExampleOfTheDocument(t *testing.T) {
 	l := samples.Index("a@v1.0.0\na@v1.1.0\na@v1.2.0\nb@v1.0.0 needs a@v1.0.0\nc@v1.0.0 needs a@v1.1.0")
 	for _, roots := range []string{"b@v1.0.0 c@v1.0.0", "c@v1.0.0 b@v1.0.0"} {
-		if got, err := mvs.Build(l, samples.Mods(roots)); text(got) != "a@v1.1.0 b@v1.0.0 c@v1.0.0" || err != nil {
-			t.Errorf("Build of %s: %s, %v", roots, text(got), err)
+		if got, err := mvs.Build(l, samples.Mods(roots)); samples.Words(got) != "a@v1.1.0 b@v1.0.0 c@v1.0.0" || err != nil {
+			t.Errorf("Build of %s: %s, %v", roots, samples.Words(got), err)
 		}
 	}
 }
@@ -88,8 +79,8 @@ func TestBuildOfAllThereMayBe(t *testing.T) {
 	}
 	l := samples.Index(strings.Join(lines, "\n"))
 	got, err := mvs.Build(l, samples.Mods(row[50]))
-	if text(got) != strings.Join(row, " ") || err != nil {
-		t.Errorf("Build: %s, %v", text(got), err)
+	if samples.Words(got) != strings.Join(row, " ") || err != nil {
+		t.Errorf("Build: %s, %v", samples.Words(got), err)
 	}
 	if is, err := mvs.Closed(l, nil, got); !is || err != nil {
 		t.Errorf("Closed: %v, %v", is, err)
@@ -187,6 +178,21 @@ func TestWrongSelections(t *testing.T) {
 	}
 }
 
+func TestIsSelection(t *testing.T) {
+	for words, want := range map[string]bool{
+		"": true, "a@v1.0.0": true, "a@v1.0.0 b@v1.0.0 c@v0.1.0": true, "a@v1.0.0 a-b@v1.0.0 a/v10@v10.0.0 a/v2@v2.0.0 a0@v1.0.0": true, samples.Row(200): true,
+		"a@v1.0.0 a@v1.0.0": false, "a@v1.0.0 a@v1.1.0": false, "a@v1.1.0 a@v1.0.0": false, "b@v1.0.0 a@v1.0.0": false, "a@v1.0.0 c@v1.0.0 b@v1.0.0": false,
+		"b@v1.0.0 a@v1.0.0 c@v1.0.0": false, "a@v1.0.0 b@v1.0.0 a@v1.0.0": false, "a/v2@v2.0.0 a/v10@v10.0.0": false,
+
+		// Modules that are not right.
+		"@": true, "@ A@x a@v2.0.0": true, "@ @": false, "a@x a@y": false, "a@v1.0.0 A@v1.0.0": false,
+	} {
+		if mvs.IsSelection(samples.Mods(words)) != want {
+			t.Errorf("IsSelection of %s: not %v", words, want)
+		}
+	}
+}
+
 func TestNothingAtAll(t *testing.T) {
 	built, err := mvs.Build(nil, nil)
 	is, err2 := mvs.Closed(nil, nil, nil)
@@ -244,10 +250,10 @@ func TestJoin(t *testing.T) {
 		{"x@v3.0.0 c@v1.0.0 b@", "b@ a@v1.0.0 c@v9.0.0", "a@v1.0.0 c@v1.0.0"},
 	} {
 		a, b := samples.Mods(c.a), samples.Mods(c.b)
-		if got := text(mvs.Join(a, b)); got != c.want {
+		if got := samples.Words(mvs.Join(a, b)); got != c.want {
 			t.Errorf("Join(%s, %s): %s", c.a, c.b, got)
 		}
-		if got := text(mvs.Join(b, a)); got != c.want {
+		if got := samples.Words(mvs.Join(b, a)); got != c.want {
 			t.Errorf("Join(%s, %s): %s", c.b, c.a, got)
 		}
 	}
@@ -388,8 +394,8 @@ func TestWhereNewerOnesRequireLess(t *testing.T) {
 	l := samples.Index("a@v1.0.0 needs b@v1.0.0\na@v1.1.0\nb@v1.0.0\nc@v1.0.0 needs a@v1.1.0")
 	roots, least := samples.Mods("a@v1.0.0 c@v1.0.0"), samples.Mods("a@v1.1.0 c@v1.0.0")
 	built, err := mvs.Build(l, roots)
-	if text(built) != "a@v1.1.0 b@v1.0.0 c@v1.0.0" || err != nil {
-		t.Errorf("Build: %s, %v", text(built), err)
+	if samples.Words(built) != "a@v1.1.0 b@v1.0.0 c@v1.0.0" || err != nil {
+		t.Errorf("Build: %s, %v", samples.Words(built), err)
 	}
 	if is, err := mvs.Closed(l, roots, least); !is || err != nil || mvs.Under(built, least) || !mvs.Under(least, built) {
 		t.Errorf("Closed: %v, %v", is, err)

@@ -19,15 +19,20 @@ func check(l []api.Entry, roots, sel []api.Mod) error {
 	if err := index.CheckMods(l, sel); err != nil {
 		return err
 	}
-	if !isSelection(sel) {
+	if !IsSelection(sel) {
 		return api.ErrOrder
 	}
 	return nil
 }
 
-// isSelection holds for just what stays as it is when it is joined with nothing.
-func isSelection(l []api.Mod) bool {
-	return slices.Equal(l, Join(l, nil))
+// IsSelection tells whether paths rise, each once. It does not ask whether the modules are right: that has errors of its own.
+func IsSelection(l []api.Mod) bool {
+	for i := 1; i < len(l); i++ {
+		if l[i-1].Path >= l[i].Path {
+			return false
+		}
+	}
+	return true
 }
 
 // right is a new list of the modules that are right.

@@ -23,6 +23,15 @@ func Mods(words string) []api.Mod {
 	return l
 }
 
+// Words writes modules, right or wrong, as Mods reads them.
+func Words(l []api.Mod) string {
+	var words []string
+	for _, m := range l {
+		words = append(words, m.Path+"@"+m.Ver)
+	}
+	return strings.Join(words, " ")
+}
+
 // Row is so many modules, paths rising, as words; up to 1000.
 func Row(n int) string {
 	var words []string

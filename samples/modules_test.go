@@ -14,6 +14,12 @@ func TestMods(t *testing.T) {
 	if !reflect.DeepEqual(got, want) {
 		t.Errorf("%v, not %v", got, want)
 	}
+	if s := samples.Words(got); s != "a@v1.0.0 x@ @ @v1" {
+		t.Error(s)
+	}
+	if s := samples.Words(nil); s != "" {
+		t.Error(s)
+	}
 	if s := samples.Row(3); s != "r000@v1.0.0 r001@v1.0.0 r002@v1.0.0" {
 		t.Error(s)
 	}
