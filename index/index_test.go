@@ -263,6 +263,25 @@ func TestVersionsPathsAndLatest(t *testing.T) {
 	}
 }
 
+func TestBest(t *testing.T) {
+	l := samples.Index(some)
+	for _, c := range []struct{ path, want string }{
+		{"a", "v1.0.0 v1.1.0"}, {"a/v2", "v2.0.0-a v2.0.0-b"}, {"c", "v0.9.0 v0.10.0"}, {"d", "v0.1.0 v0.2.0-a"}, {"e", "v1.0.0-a"}, {"f", "v1.0.0-a.9 v1.0.0-a.10"}, {"g", ""}, {"", ""},
+	} {
+		if got := strings.Join(index.Best(l, c.path), " "); got != c.want {
+			t.Errorf("Best of %q: %s", c.path, got)
+		}
+	}
+	// It need be no index.
+	for _, c := range []struct{ text, want string }{
+		{"a@v1.10.0\na@v1.9.0\na@v1.10.0\na@junk", "v1.9.0 v1.10.0"}, {"a@junk\na@v1.0.0 back", "v1.0.0"}, {"", ""},
+	} {
+		if got := strings.Join(index.Best(samples.Index(c.text), "a"), " "); got != c.want {
+			t.Errorf("Best of %s: %s", c.text, got)
+		}
+	}
+}
+
 func TestPathsRiseByTheirBytes(t *testing.T) {
 	l := samples.Index("a@v1.0.0\na@v1.1.0\na-b@v0.0.1\na/b@v0.0.1\na/v10@v10.0.0\na/v2@v2.0.0\na/v2@v2.1.0\na0@v0.0.1")
 	if got := strings.Join(index.Paths(l), " "); got != "a a-b a/b a/v10 a/v2 a0" {

@@ -27,6 +27,19 @@ func readNumbers(s string) ([]int, error) {
 	return nums, bad
 }
 
+// readHead reads the one or two numbers that a version may begin with.
+func readHead(head string) ([]int, error) {
+	rest, marked := strings.CutPrefix(head, "v")
+	nums, bad := readNumbers(rest)
+	if !marked || len(nums) > 2 {
+		return nil, api.ErrText
+	}
+	if bad != nil {
+		return nil, bad
+	}
+	return nums, nil
+}
+
 func inBounds(n int) bool {
 	return 0 <= n && n <= api.MaxNum
 }

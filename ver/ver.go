@@ -103,11 +103,16 @@ func Begins(s, head string) bool {
 	if head == s {
 		return true
 	}
-	rest, marked := strings.CutPrefix(head, "v")
-	nums, bad := readNumbers(rest)
-	if !marked || bad != nil || len(nums) > 2 {
+	nums, err := readHead(head)
+	if err != nil {
 		return false
 	}
 	first := []int{p.Major, p.Minor}
 	return slices.Equal(nums, first[:len(nums)])
+}
+
+// CheckHead: can a version begin so, and not be it? ErrText: it is not `v` and one or two numbers; ErrBound: a number above MaxNum, but else right.
+func CheckHead(head string) error {
+	_, err := readHead(head)
+	return err
 }

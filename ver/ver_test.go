@@ -263,6 +263,23 @@ func TestBegins(t *testing.T) {
 	}
 }
 
+func TestCheckHead(t *testing.T) {
+	for _, c := range []struct {
+		head string
+		err  error
+	}{
+		{"v0", nil}, {"v1", nil}, {"v0.0", nil}, {"v1.20", nil}, {"v999999", nil}, {"v999999.999999", nil},
+		{"", api.ErrText}, {"v", api.ErrText}, {"1", api.ErrText}, {"V1", api.ErrText}, {"v.", api.ErrText}, {"v1.", api.ErrText}, {"v.1", api.ErrText}, {"vv1", api.ErrText},
+		{"v01", api.ErrText}, {"v1.02", api.ErrText}, {"v1.2.3", api.ErrText}, {"v1.2.", api.ErrText}, {"v1-a", api.ErrText}, {"v1.2-a", api.ErrText}, {"v-1", api.ErrText}, {"v1 ", api.ErrText},
+		{"v1000000", api.ErrBound}, {"v1.1000000", api.ErrBound}, {"v1000000.0", api.ErrBound}, {"v" + strings.Repeat("9", 1000), api.ErrBound},
+		{"v1000000.x", api.ErrText}, {"vx.1000000", api.ErrText}, {"v1000000.", api.ErrText}, {"v1000000.1.2", api.ErrText}, {"v01000000", api.ErrText}, {"1000000", api.ErrText},
+	} {
+		if err := ver.CheckHead(c.head); err != c.err {
+			t.Errorf("CheckHead(%.40q): %v, not %v", c.head, err, c.err)
+		}
+	}
+}
+
 // someVersions are all with few numbers and all short Pres of few letters.
 func someVersions() []string {
 	var l []string
