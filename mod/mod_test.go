@@ -77,6 +77,24 @@ func TestPathTellsWhatIsNone(t *testing.T) {
 	}
 }
 
+// LikePath tells the same, but that of a suffix.
+func TestLikePath(t *testing.T) {
+	for _, c := range paths {
+		if err := mod.LikePath(c.path); err != nil {
+			t.Errorf("LikePath(%q): %v", c.path, err)
+		}
+	}
+	for _, c := range noPaths {
+		want := c.err
+		if want == api.ErrMajor {
+			want = nil
+		}
+		if err := mod.LikePath(c.text); err != want {
+			t.Errorf("LikePath(%.40q): %v, not %v", c.text, err, want)
+		}
+	}
+}
+
 func TestPathOfEachByte(t *testing.T) {
 	for i := range 256 {
 		c := string([]byte{byte(i)})

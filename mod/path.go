@@ -8,6 +8,15 @@ import (
 	"pewholder/chars"
 )
 
+// LikePath is Path for what only is written like a path, a pattern or a package: the suffix is a module's, and it may have any.
+func LikePath(s string) error {
+	err := Path(s)
+	if err == api.ErrMajor {
+		return nil
+	}
+	return err
+}
+
 // readPath answers what is ahead of a path's suffix, and the suffix's number.
 func readPath(s string) (string, int, error) {
 	elems := strings.Split(s, "/")
