@@ -28,9 +28,14 @@ func Digits(s string) bool {
 	return len(s) > 0 && Every(s, Digit)
 }
 
+// Numeral tells whether a text is a number, however great, without needless zeros.
+func Numeral(s string) bool {
+	return Digits(s) && (len(s) == 1 || s[0] != '0')
+}
+
 // Number reads one. ErrText: it is none, or has needless zeros; ErrBound: it is above MaxNum.
 func Number(s string) (int, error) {
-	if !Digits(s) || len(s) > 1 && s[0] == '0' {
+	if !Numeral(s) {
 		return 0, api.ErrText
 	}
 	n := 0

@@ -22,6 +22,9 @@ func TestNumber(t *testing.T) {
 		if n, err := chars.Number(c.text); n != c.want || err != c.err {
 			t.Errorf("Number(%.40q): %d, %v, not %d, %v", c.text, n, err, c.want, c.err)
 		}
+		if chars.Numeral(c.text) != (c.err != api.ErrText) {
+			t.Errorf("Numeral(%.40q): %v", c.text, chars.Numeral(c.text))
+		}
 	}
 }
 
